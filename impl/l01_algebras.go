@@ -349,11 +349,16 @@ func product(a Algebra, v Vector, w Vector) Vector {
 }
 
 func leftTable(a Algebra, v Vector) Linear {
-	var left Linear
-	for j, right := range flipTable(a.Mul) {
-		left[j] = apply(a.Prime, right, v)
+	return sumOfMaps(a.Prime, a.Mul, v)
+}
+
+// sumOfMaps returns the sum of v[i] times the map i of a table.
+func sumOfMaps(p int64, t Table, v Vector) Linear {
+	var sum Linear
+	for j, images := range flipTable(t) {
+		sum[j] = apply(p, images, v)
 	}
-	return left
+	return sum
 }
 
 func traceOfMap(p int64, f Linear) int64 {

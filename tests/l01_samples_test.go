@@ -211,9 +211,9 @@ type badAlgebra struct {
 	a    impl.Algebra
 }
 
-func changed(a impl.Algebra, change func(a *impl.Algebra)) impl.Algebra {
-	change(&a)
-	return a
+func changed[T any](x T, change func(x *T)) T {
+	change(&x)
+	return x
 }
 
 // shapelessAlgebras have not the form of an algebra.
