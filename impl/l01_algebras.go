@@ -260,9 +260,10 @@ func isLinear(p int64, from int64, n int64, f Linear) bool {
 	return true
 }
 
-func isTable(p int64, n int64, t Table) bool {
+// isTable reports whether t has count linear maps for p and n, and others of zeros behind them.
+func isTable(p int64, count int64, n int64, t Table) bool {
 	for i, f := range t {
-		if !isLinear(p, n, n, f) || int64(i) >= n && f != (Linear{}) {
+		if !isLinear(p, n, n, f) || int64(i) >= count && f != (Linear{}) {
 			return false
 		}
 	}
@@ -271,7 +272,7 @@ func isTable(p int64, n int64, t Table) bool {
 
 // isShapedAlgebra leaves associativity and the unit open.
 func isShapedAlgebra(a Algebra) bool {
-	return IsVector(a.Prime, a.Size, a.Unit) && isTable(a.Prime, a.Size, a.Mul)
+	return IsVector(a.Prime, a.Size, a.Unit) && isTable(a.Prime, a.Size, a.Size, a.Mul)
 }
 
 func isAlgebraWith(a Algebra, list ...Vector) bool {
