@@ -483,7 +483,10 @@ func firstPlace(row []byte) int {
 // addToRow adds factor times other to a row that is equally long, in the memory of the row.
 func addToRow(p int64, row []byte, factor int64, other []byte) {
 	for i, x := range other {
-		row[i] = byte((int64(row[i]) + factor*int64(x)) % p)
+		// Most entries of tables are 0, and remainders take much longer than comparisons.
+		if x != 0 {
+			row[i] = byte((int64(row[i]) + factor*int64(x)) % p)
+		}
 	}
 }
 

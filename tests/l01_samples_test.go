@@ -56,7 +56,9 @@ func plainProduct(a impl.Algebra, v, w impl.Vector) impl.Vector {
 	var sum impl.Vector
 	for i := range a.Size {
 		for j := range a.Size {
-			sum = sumOf(a.Prime, sum, int64(v[i])*int64(w[j]), a.Mul[i][j])
+			if factor := int64(v[i]) * int64(w[j]); factor != 0 {
+				sum = sumOf(a.Prime, sum, factor, a.Mul[i][j])
+			}
 		}
 	}
 	return sum
