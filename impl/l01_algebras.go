@@ -356,10 +356,20 @@ func leftTable(a Algebra, v Vector) Linear {
 // sumOfMaps returns the sum of v[i] times the map i of a table.
 func sumOfMaps(p int64, t Table, v Vector) Linear {
 	var sum Linear
-	for j, images := range flipTable(t) {
-		sum[j] = apply(p, images, v)
+	for i, x := range v {
+		if x != 0 {
+			sum = addMap(p, sum, int64(x), t[i])
+		}
 	}
 	return sum
+}
+
+// addMap returns f plus the product of factor and g.
+func addMap(p int64, f Linear, factor int64, g Linear) Linear {
+	for i, image := range g {
+		f[i] = addMultiple(p, f[i], factor, image)
+	}
+	return f
 }
 
 func traceOfMap(p int64, f Linear) int64 {

@@ -38,6 +38,15 @@ func everyVector(p, n int64) []impl.Vector {
 	return list
 }
 
+// countVectors is the number of all vectors for p and n.
+func countVectors(p, n int64) int64 {
+	count := int64(1)
+	for range n {
+		count *= p
+	}
+	return count
+}
+
 func basis(i int64) impl.Vector {
 	var v impl.Vector
 	v[i] = 1

@@ -114,11 +114,7 @@ func everyHopfForIntegrals() []impl.Hopf {
 func triable(list []impl.Hopf) []impl.Hopf {
 	var small []impl.Hopf
 	for _, h := range list {
-		count := int64(1)
-		for range h.Size {
-			count *= h.Prime
-		}
-		if count <= 1000 {
+		if countVectors(h.Prime, h.Size) <= 1000 {
 			small = append(small, h)
 		}
 	}

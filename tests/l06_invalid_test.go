@@ -22,7 +22,7 @@ func checkRefused(t *testing.T, name string, h impl.Hopf, m impl.Module) {
 		t.Errorf("%s: IsModule", name)
 	}
 	dual, code := impl.DualModule(h, m)
-	hasNoModule(t, name+": DualModule", dual, code, impl.ErrInvalid)
+	hasNone(t, name+": DualModule", dual, code, impl.ErrInvalid)
 	character, code := impl.CharacterOf(h, m)
 	isRefused(t, name+": CharacterOf", character == impl.Vector{}, code)
 	invariants, code := impl.InvariantsOf(h, m)
@@ -36,7 +36,7 @@ func checkRefused(t *testing.T, name string, h impl.Hopf, m impl.Module) {
 			ok, code := impl.IsSubmodule(h, m, list)
 			isRefused(t, name+": IsSubmodule", !ok, code)
 			quotient, code := impl.QuotientModule(h, m, list)
-			hasNoModule(t, name+": QuotientModule", quotient, code, impl.ErrInvalid)
+			hasNone(t, name+": QuotientModule", quotient, code, impl.ErrInvalid)
 		}
 	}
 }
@@ -46,9 +46,9 @@ func checkRefused(t *testing.T, name string, h impl.Hopf, m impl.Module) {
 func checkRefusedPair(t *testing.T, name string, h impl.Hopf, m, k impl.Module) {
 	t.Helper()
 	sum, code := impl.SumModule(h, m, k)
-	hasNoModule(t, name+": SumModule", sum, code, impl.ErrInvalid)
+	hasNone(t, name+": SumModule", sum, code, impl.ErrInvalid)
 	tensor, code := impl.TensorModule(h, m, k)
-	hasNoModule(t, name+": TensorModule", tensor, code, impl.ErrInvalid)
+	hasNone(t, name+": TensorModule", tensor, code, impl.ErrInvalid)
 	for _, f := range []impl.Linear{{}, {{1}}, {{255}}} {
 		ok, code := impl.IsModuleMap(h, m, k, f)
 		isRefused(t, name+": IsModuleMap", !ok, code)
@@ -65,10 +65,10 @@ func TestModulesOfWhatIsNoHopfAlgebra(t *testing.T) {
 	}
 	for _, x := range list {
 		regular, code := impl.RegularModule(x.h)
-		hasNoModule(t, x.name+": RegularModule", regular, code, impl.ErrInvalid)
+		hasNone(t, x.name+": RegularModule", regular, code, impl.ErrInvalid)
 		for _, m := range []int64{1, 8} {
 			trivial, code := impl.TrivialModule(x.h, m)
-			hasNoModule(t, x.name+": TrivialModule", trivial, code, impl.ErrInvalid)
+			hasNone(t, x.name+": TrivialModule", trivial, code, impl.ErrInvalid)
 		}
 		modules := modulesForNone(x.h)
 		last := modules[len(modules)-1]
@@ -120,7 +120,7 @@ func checkNoVector(t *testing.T, h impl.Hopf, m impl.Module, v impl.Vector) {
 		ok, code := impl.IsSubmodule(h, m, list)
 		isRefused(t, "IsSubmodule with no vector", !ok, code)
 		quotient, code := impl.QuotientModule(h, m, list)
-		hasNoModule(t, "QuotientModule with no vector", quotient, code, impl.ErrInvalid)
+		hasNone(t, "QuotientModule with no vector", quotient, code, impl.ErrInvalid)
 	}
 }
 

@@ -18,22 +18,41 @@ func checkModule(t *testing.T, h impl.Hopf, m impl.Module) bool {
 	return want
 }
 
-// isMadeModule sees that a result is a module and the one that is wanted.
-func isMadeModule(t *testing.T, name string, h impl.Hopf, got impl.Module, code int64, want impl.Module) {
+// isMade sees that a result is the one that is wanted, and is what two functions have to report.
+func isMade[T comparable](t *testing.T, name string, h impl.Hopf, got T, code int64, want T, is, plainIs func(h impl.Hopf, x T) bool) {
 	t.Helper()
 	if got != want || code != impl.ErrNone {
 		t.Errorf("%s for %v: %v, %d, not %v", name, h, got, code, want)
 	}
-	if !impl.IsModule(h, got) || !plainIsModule(h, got) {
-		t.Errorf("%s for %v: %v is no module", name, h, got)
+	if !is(h, got) || !plainIs(h, got) {
+		t.Errorf("%s for %v: it is %v, which is none", name, h, got)
 	}
 }
 
-// hasNoModule sees that a function returns a code, and the zero value beside it.
-func hasNoModule(t *testing.T, name string, got impl.Module, code, want int64) {
+func isMadeModule(t *testing.T, name string, h impl.Hopf, got impl.Module, code int64, want impl.Module) {
 	t.Helper()
-	if got != (impl.Module{}) || code != want {
+	isMade(t, name, h, got, code, want, impl.IsModule, plainIsModule)
+}
+
+// hasNone sees that a function returns a code, and the zero value beside it.
+func hasNone[T comparable](t *testing.T, name string, got T, code, want int64) {
+	t.Helper()
+	var zero T
+	if got != zero || code != want {
 		t.Errorf("%s: %v, %d, not code %d", name, got, code, want)
+	}
+}
+
+// hasAllDims sees that there are enough samples of each Dim or Size, and enough that are not trivial.
+func hasAllDims(t *testing.T, dims map[int64]int, others int) {
+	t.Helper()
+	for dim := int64(1); dim <= 8; dim++ {
+		if dims[dim] < 10 {
+			t.Errorf("%d samples have the Dim %d", dims[dim], dim)
+		}
+	}
+	if others < 400 {
+		t.Errorf("only %d samples are not trivial", others)
 	}
 }
 
@@ -49,14 +68,7 @@ func TestSamplesAreModules(t *testing.T) {
 			others++
 		}
 	}
-	for dim := int64(1); dim <= 8; dim++ {
-		if dims[dim] < 10 {
-			t.Errorf("%d samples have the Dim %d", dims[dim], dim)
-		}
-	}
-	if others < 500 {
-		t.Errorf("only %d samples are not trivial", others)
-	}
+	hasAllDims(t, dims, others)
 }
 
 // everyActs calls f for all Acts with the form of a module of h.
@@ -200,11 +212,11 @@ func TestTrivialModulesOfNoDim(t *testing.T) {
 	for _, m := range []int64{math.MinInt64, -8, -1, 0, 9, 10, 1 + 1<<32, math.MaxInt64} {
 		for _, h := range []impl.Hopf{groupHopf(cyclic(2, 1)), sweedlerHopf(31), doubleHopf(3)} {
 			got, code := impl.TrivialModule(h, m)
-			hasNoModule(t, "TrivialModule", got, code, impl.ErrRange)
+			hasNone(t, "TrivialModule", got, code, impl.ErrRange)
 		}
 		for _, x := range badHopfs() {
 			got, code := impl.TrivialModule(x.h, m)
-			hasNoModule(t, x.name, got, code, impl.ErrInvalid)
+			hasNone(t, x.name, got, code, impl.ErrInvalid)
 		}
 	}
 }
@@ -216,7 +228,7 @@ func TestCharactersOfSumsAreSums(t *testing.T) {
 		got, code := impl.SumModule(x.h, x.m, x.k)
 		if x.m.Dim+x.k.Dim > 8 {
 			many++
-			hasNoModule(t, "SumModule", got, code, impl.ErrLimit)
+			hasNone(t, "SumModule", got, code, impl.ErrLimit)
 			continue
 		}
 		made[got.Dim]++
@@ -239,7 +251,7 @@ func TestTensorProductsAreModules(t *testing.T) {
 		got, code := impl.TensorModule(x.h, x.m, x.k)
 		if x.m.Dim*x.k.Dim > 8 {
 			many++
-			hasNoModule(t, "TensorModule", got, code, impl.ErrLimit)
+			hasNone(t, "TensorModule", got, code, impl.ErrLimit)
 			continue
 		}
 		made[got.Dim]++
@@ -296,13 +308,13 @@ func TestSumsAndTensorProductsAtTheLimit(t *testing.T) {
 			if m+k <= 8 {
 				isMadeModule(t, "SumModule", h, sum, code, plainTrivial(h, m+k))
 			} else {
-				hasNoModule(t, "SumModule", sum, code, impl.ErrLimit)
+				hasNone(t, "SumModule", sum, code, impl.ErrLimit)
 			}
 			tensor, code := impl.TensorModule(h, first, second)
 			if m*k <= 8 {
 				isMadeModule(t, "TensorModule", h, tensor, code, plainTrivial(h, m*k))
 			} else {
-				hasNoModule(t, "TensorModule", tensor, code, impl.ErrLimit)
+				hasNone(t, "TensorModule", tensor, code, impl.ErrLimit)
 			}
 		}
 	}

@@ -306,11 +306,7 @@ var someModules = sync.OnceValue(func() []hopfModule {
 func smallModules(most int64) []hopfModule {
 	var small []hopfModule
 	for _, x := range someModules() {
-		count := int64(1)
-		for range x.m.Dim {
-			count *= x.h.Prime
-		}
-		if count <= most {
+		if countVectors(x.h.Prime, x.m.Dim) <= most {
 			small = append(small, x)
 		}
 	}

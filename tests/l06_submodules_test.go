@@ -180,7 +180,7 @@ func checkQuotient(t *testing.T, h impl.Hopf, m impl.Module, list []impl.Vector)
 	}
 	space, _ := impl.ReduceVectors(h.Prime, m.Dim, list)
 	if int64(len(space)) == m.Dim || !slices.Equal(space, closureIn(h, m, list)) {
-		hasNoModule(t, "QuotientModule", got, code, impl.ErrState)
+		hasNone(t, "QuotientModule", got, code, impl.ErrState)
 		return code
 	}
 	f := projection(h.Prime, m.Dim, space)
@@ -279,6 +279,6 @@ func TestQuotientsByWholeModulesAndByNoSubmodules(t *testing.T) {
 	}
 	for _, x := range tests {
 		got, code := impl.QuotientModule(x.h, x.m, x.list)
-		hasNoModule(t, "QuotientModule", got, code, impl.ErrState)
+		hasNone(t, "QuotientModule", got, code, impl.ErrState)
 	}
 }
